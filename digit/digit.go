@@ -31,11 +31,11 @@ func Text(n int) string {
 
 // Parse returns the integer whose decimal form is s.
 func Parse(s string) (int, api.Errno) {
-	size, negative := strings.CutPrefix(s, "-")
-	if negative && size == "0" {
+	magnitude, negative := strings.CutPrefix(s, "-")
+	if negative && magnitude == "0" {
 		return 0, api.ErrSyntax
 	}
-	n, e := Count(size, Most)
+	n, e := Count(magnitude, Most)
 	if negative {
 		n = -n
 	}
