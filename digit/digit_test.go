@@ -199,12 +199,16 @@ func TestNumbersComeBack(t *testing.T) {
 // texts calls a function with all texts of up to five bytes of a few kinds, each followed by each of some ends.
 func texts(f func(string)) {
 	const bytes = "0159.-x"
+	const longest = 5
 	l := []string{""}
-	for range 5 {
+	for size := 0; ; size++ {
 		for _, s := range l {
 			for _, end := range []string{"", "9007199254740992", "7199254740992", "7199254740.992", "199254740993", "00000000000000000000"} {
 				f(s + end)
 			}
+		}
+		if size == longest {
+			return
 		}
 		var longer []string
 		for _, s := range l {
