@@ -1245,6 +1245,24 @@ func TestInvalid(t *testing.T) {
 	}
 }
 
+// TestOtherKinds: promise 8.2, nodes that are no maps by their kind, although they have keys, are without values.
+func TestOtherKinds(t *testing.T) {
+	x := text("x")
+	for _, kind := range []int{-1 << 63, -4, -1, 0, 1, 2, 4, 7, 1<<63 - 1} {
+		n := api.Node{Kind: kind, Keys: []string{"0", "a"}, Kids: []api.Node{seq(x), x}}
+		for _, key := range []string{"0", "a", "b"} {
+			checkGet(t, n, key, api.Node{}, false)
+			checkLess(t, n, key, n)
+			if kind != 0 {
+				checkWith(t, n, key, x, n)
+			}
+			if kind != 2 {
+				checkAt(t, n, []string{key}, api.Node{}, false)
+			}
+		}
+	}
+}
+
 // TestGreat: promise P1, what is returned for nodes that are valid but for their size, and for those without an end, which is nowhere promised.
 func TestGreat(t *testing.T) {
 	for _, n := range []api.Node{x13(), nested(dict("b", text("x"), "a", text("y")), 30, "s"), dict("b", wide(4000), "a", seq(make([]api.Node, 4000)...)), seq(make([]api.Node, 1<<16-1)...), wide(1<<16 - 1), nested(text("x"), 1<<16-1, "s")} {
