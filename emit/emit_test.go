@@ -391,8 +391,9 @@ func TestNesting(t *testing.T) {
 	checkFile(t, `[{'<<': [---, {---: ...}], 'a: b': {'': "x\ty\n"}}]`, `- "<<":`, "    - ---", "    - ---: ...", `  "a: b":`, `    "": "x\ty\n"`)
 }
 
-// TestDeepest: promises 11.1 to 11.3, all nodes of the greatest depth with one or two kids at each level, of each kind of leaf.
+// TestDeepest: promises 11.1 to 11.3, all nodes of the greatest depth with one or two kids at each level, of each kind of leaf, which all have different files.
 func TestDeepest(t *testing.T) {
+	seen := register{}
 	for kinds := range 1 << (mostNest - 1) {
 		for _, leaf := range []api.Node{text("x"), null, seq(), dict(), text("...")} {
 			for _, kids := range []int{1, 2} {
@@ -410,6 +411,7 @@ func TestDeepest(t *testing.T) {
 					}
 				}
 				checkWrite(t, n, filed(n))
+				seen.check(t, n)
 			}
 		}
 	}
